@@ -4,13 +4,16 @@ package munch
 import (
 	"sync"
 
+	"munch/least"
 	"munch/reader"
+	"munch/table"
 	"munch/tree"
 )
 
 const (
 	maxList   = 80
 	maxWeight = 10
+	maxTable  = 200000
 )
 
 // Errno is what a call answers: OK or the reason for a refusal.
@@ -91,19 +94,70 @@ func firstThatFits(patterns []tree.Tree, w string) int {
 }
 
 // Compile makes the least table of a list (P5).
-func Compile(list string) (string, Errno, int) { return "", 0, 0 }
+func Compile(list string) (string, Errno, int) {
+	states, fault, place := compile(list)
+	if fault != OK {
+		return "", fault, place
+	}
+	return states.Text(), OK, 0
+}
+
+func compile(list string) (table.Table, Errno, int) {
+	patterns, fault, place := read(list)
+	if fault != OK {
+		return nil, fault, place
+	}
+	return least.Table(patterns), OK, 0
+}
 
 // CheckTable tells whether a text is a table (P6).
-func CheckTable(table string) (Errno, int) { return 0, 0 }
+func CheckTable(table string) (Errno, int) {
+	_, fault, place := readTable(table)
+	return fault, place
+}
+
+func readTable(text string) (table.Table, Errno, int) {
+	if len(text) > maxTable {
+		return nil, ErrLong, 0
+	}
+	states, place, ok := table.Read(text)
+	if !ok {
+		return nil, ErrTable, place
+	}
+	return states, OK, 0
+}
 
 // Walk goes over a table (P7).
-func Walk(table string, w string) (int, Errno, int) { return 0, 0, 0 }
+func Walk(table string, w string) (int, Errno, int) {
+	states, fault, place := readTable(table)
+	if fault != OK {
+		return 0, fault, place
+	}
+	return states.Walk(w), OK, 0
+}
 
 // Differ tells what tells two lists apart (P8).
-func Differ(a string, b string) (bool, string, Errno, int) { return false, "", 0, 0 }
+func Differ(a string, b string) (bool, string, Errno, int) {
+	ofA, fault, place := compile(a)
+	if fault != OK {
+		return false, "", fault, place
+	}
+	ofB, fault, place := compile(b)
+	if fault != OK {
+		return false, "", fault, place
+	}
+	text, differ := table.Differ(ofA, ofB)
+	return differ, text, OK, 0
+}
 
 // Ahead tells how far a lexer looks ahead (P11).
-func Ahead(list string) (int, Errno, int) { return 0, 0, 0 }
+func Ahead(list string) (int, Errno, int) {
+	states, fault, place := compile(list)
+	if fault != OK {
+		return 0, fault, place
+	}
+	return table.Ahead(states), OK, 0
+}
 
 // Lexer cuts a text that comes in pieces into tokens. Make it by New.
 type Lexer struct{}

@@ -1,6 +1,7 @@
 package munch_test
 
 import (
+	"fmt"
 	"math/rand"
 	"runtime"
 	"sync"
@@ -10,8 +11,15 @@ import (
 	"munch/munch"
 )
 
-// tryPlain asks what P1 says of Check and Tag at any strings.
+// tryPlain asks what P1 says of the calls at any strings.
 func tryPlain(t *testing.T, list, w string) {
+	t.Helper()
+	tryPlainList(t, list, w)
+	tryPlainDiffer(t, list, w)
+	tryPlainTable(t, list, w)
+}
+
+func tryPlainList(t *testing.T, list, w string) {
 	t.Helper()
 	fault, place := munch.Check(list)
 	if fault < munch.OK || fault > munch.ErrWeight {
@@ -30,6 +38,41 @@ func tryPlain(t *testing.T, list, w string) {
 	if fault != munch.OK && tag != 0 {
 		t.Errorf("P1: Tag(%.90q, %.90q) = %d beside an error, want 0", list, w, tag)
 	}
+	table, tableFault, tablePlace := munch.Compile(list)
+	if tableFault != fault || tablePlace != place || (fault == munch.OK) != (table != "") {
+		t.Errorf("P1: Compile(%.90q) = %.90q %d %d, Check says %d %d", list, table, tableFault, tablePlace, fault, place)
+	}
+	ahead, aheadFault, aheadPlace := munch.Ahead(list)
+	if aheadFault != fault || aheadPlace != place || fault != munch.OK && ahead != 0 || ahead < -1 {
+		t.Errorf("P1: Ahead(%.90q) = %d %d %d, Check says %d %d", list, ahead, aheadFault, aheadPlace, fault, place)
+	}
+}
+
+func tryPlainDiffer(t *testing.T, a, b string) {
+	t.Helper()
+	want, wantPlace := munch.Check(a)
+	if want == munch.OK {
+		want, wantPlace = munch.Check(b)
+	}
+	differ, w, fault, place := munch.Differ(a, b)
+	if fault != want || place != wantPlace || (fault != munch.OK || !differ) && w != "" || fault != munch.OK && differ {
+		t.Errorf("P1: Differ(%.90q, %.90q) = %v %.90q %d %d, Check says %d %d", a, b, differ, w, fault, place, want, wantPlace)
+	}
+}
+
+func tryPlainTable(t *testing.T, table, w string) {
+	t.Helper()
+	fault, place := munch.CheckTable(table)
+	switch {
+	case fault == munch.ErrTable && 0 <= place && place <= 9999:
+	case (fault == munch.OK || fault == munch.ErrLong) && place == 0:
+	default:
+		t.Errorf("P1: CheckTable(%.90q) = %d %d", table, fault, place)
+	}
+	tag, tagFault, tagPlace := munch.Walk(table, w)
+	if tagFault != fault || tagPlace != place || fault != munch.OK && tag != 0 || tag < -1 || tag > 4 {
+		t.Errorf("P1: Walk(%.90q, %.90q) = %d %d %d, CheckTable says %d %d", table, w, tag, tagFault, tagPlace, fault, place)
+	}
 }
 
 func TestAnyStrings(t *testing.T) {
@@ -42,6 +85,8 @@ func TestAnyStrings(t *testing.T) {
 		tryPlain(t, madeText(r, string(any), 100), madeText(r, string(any), 100))
 		tryPlain(t, madeText(r, "a-]^[\\{,19}(|)&!*\n.", 100), madeText(r, "a\n", 10))
 		tryPlain(t, madeText(r, "|&()*\n", 20), madeText(r, "a\n", 10))
+		tryPlainTable(t, madeText(r, "-0>,;", 10), madeText(r, "a\n", 10))
+		tryPlainTable(t, madeText(r, "-,0000>0000;", 30), string(any))
 	}
 }
 
@@ -58,6 +103,11 @@ func TestVeryLongStrings(t *testing.T) {
 	tryTag(t, "a*\n.*", 1, rep("a", long)+"b")
 	tryTag(t, "(ab)*", -1, rep("ab", long)+"a")
 	tryTag(t, "!(a|b)*", 0, rep("ab", long)+"c")
+	tryPlainTable(t, "0,6161>0000", rep("a", long)+"b")
+	tryPlainTable(t, "-"+edges(256), string(make([]byte, long)))
+	if tag, fault, place := munch.Walk("-,6161>0001;3,6262>0000", rep("ab", long)+"a"); tag != 3 || fault != munch.OK || place != 0 {
+		t.Errorf("P7: Walk by a long text = %d %d %d, want 3 0 0", tag, fault, place)
+	}
 }
 
 // Lists with as many trees to come to as there can be, and texts that come to all of them.
@@ -87,16 +137,29 @@ func TestHeavyLists(t *testing.T) {
 
 type question struct{ list, w string }
 
-type answer struct {
-	checkFault, tagFault      munch.Errno
-	checkPlace, tag, tagPlace int
-}
+// answer is what all calls answer, written down.
+type answer string
 
 func ask(q question) answer {
-	var a answer
-	a.checkFault, a.checkPlace = munch.Check(q.list)
-	a.tag, a.tagFault, a.tagPlace = munch.Tag(q.list, q.w)
-	return a
+	var out []any
+	add := func(results ...any) { out = append(out, results...) }
+	fault, place := munch.Check(q.list)
+	add(fault, place)
+	tag, fault, place := munch.Tag(q.list, q.w)
+	add(tag, fault, place)
+	table, fault, place := munch.Compile(q.list)
+	add(table, fault, place)
+	fault, place = munch.CheckTable(q.list)
+	add(fault, place)
+	fault, place = munch.CheckTable(table)
+	add(fault, place)
+	tag, fault, place = munch.Walk(table, q.w)
+	add(tag, fault, place)
+	differ, w, fault, place := munch.Differ(q.list, q.w)
+	add(differ, w, fault, place)
+	ahead, fault, place := munch.Ahead(q.list)
+	add(ahead, fault, place)
+	return answer(fmt.Sprintf("%q", out))
 }
 
 func questions() []question {
@@ -117,13 +180,13 @@ func TestSameAnswersInWhateverOrder(t *testing.T) {
 	for i := len(all) - 1; i >= 0; i-- {
 		for range 3 {
 			if again := ask(all[i]); again != first[i] {
-				t.Fatalf("P2: %q: first %v, then %v", all[i], first[i], again)
+				t.Fatalf("P2: %q: first %s, then %s", all[i], first[i], again)
 			}
 		}
 	}
 	for _, i := range rand.New(rand.NewSource(6)).Perm(len(all)) {
 		if again := ask(all[i]); again != first[i] {
-			t.Fatalf("P2: %q: first %v, then %v", all[i], first[i], again)
+			t.Fatalf("P2: %q: first %s, then %s", all[i], first[i], again)
 		}
 	}
 }
@@ -142,7 +205,7 @@ func TestSameAnswersAtTheSameTime(t *testing.T) {
 			for i := range all {
 				at := (i*(2*asker+1) + asker) % len(all)
 				if again := ask(all[at]); again != first[at] {
-					t.Errorf("P2: %q: alone %v, beside others %v", all[at], first[at], again)
+					t.Errorf("P2: %q: alone %s, beside others %s", all[at], first[at], again)
 				}
 			}
 		}()

@@ -108,10 +108,10 @@ func TestHas(t *testing.T) {
 
 // countTrees goes from a tree to all that can be come to.
 func countTrees(t Tree) int {
-	w := newWalker(t)
+	w := NewWalker(t)
 	for at := 0; at < len(w.trees) && at < 5000; at++ {
 		for by := range 256 {
-			w.next(at, byte(by))
+			w.Next(at, byte(by))
 		}
 	}
 	return len(w.trees)
