@@ -82,6 +82,7 @@ func TestManyStates(t *testing.T) {
 	tryCheckTable(t, many(5000)+";0,0000>9998;"+many(4998), munch.OK, 0)
 	tryCheckTable(t, many(5000)+";0,0000>9999;"+many(4998), munch.ErrTable, 5000)
 	tryCheckTable(t, many(5000)+";0,0000>9998;"+many(4997), munch.ErrTable, 5000)
+	tryCheckTable(t, many(5000)+";0,0000>9999;"+many(4999), munch.ErrTable, 9999) // the piece is there, but one too many
 	tryCheckTable(t, "0,6161>9998;"+many(9997)+";4,6262>0001", munch.OK, 0)
 	if tag, _, _ := munch.Walk("0,6161>9998;"+many(9997)+";4,6262>0001", "a"); tag != 4 {
 		t.Errorf("P7: by the last state of 9999 one comes to %d, want 4", tag)
