@@ -158,15 +158,3 @@ func Ahead(list string) (int, Errno, int) {
 	}
 	return table.Ahead(states), OK, 0
 }
-
-// Lexer cuts a text that comes in pieces into tokens. Make it by New.
-type Lexer struct{}
-
-// New makes a lexer (P10).
-func New(list string) (*Lexer, Errno, int) { return nil, 0, 0 }
-
-// Feed takes a piece, and tells what is sure (P10).
-func (x *Lexer) Feed(b string) ([]Token, Errno, int) { return nil, 0, 0 }
-
-// Close tells the rest (P10).
-func (x *Lexer) Close() ([]Token, Errno, int) { return nil, 0, 0 }

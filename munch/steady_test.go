@@ -159,6 +159,11 @@ func ask(q question) answer {
 	add(differ, w, fault, place)
 	ahead, fault, place := munch.Ahead(q.list)
 	add(ahead, fault, place)
+	x, fault, place := munch.New(q.list)
+	add(x != nil, fault, place)
+	if x != nil {
+		add(told(x.Feed(q.w)), told(x.Feed(q.w)), told(x.Close()))
+	}
 	return answer(fmt.Sprintf("%q", out))
 }
 

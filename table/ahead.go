@@ -8,7 +8,7 @@ func Ahead(t Table) int {
 	stops := t.stopping()
 	var layer []int
 	for _, s := range t.comeTo() {
-		if t[s].Tag != NoTag && len(t[s].Edges) > 0 && stops[s] {
+		if t[s].Tag != NoTag && t.GoesOn(s) && stops[s] {
 			layer = append(layer, s)
 		}
 	}

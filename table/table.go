@@ -61,6 +61,11 @@ func (t Table) Tag(at int) int {
 	return t[at].Tag
 }
 
+// GoesOn tells whether there is a byte that leads on from a state. From Nowhere there is none.
+func (t Table) GoesOn(at int) bool {
+	return at != Nowhere && len(t[at].Edges) > 0
+}
+
 // Walk answers the tag to which one comes from state 0 by the bytes of a text.
 func (t Table) Walk(text string) int {
 	at := 0

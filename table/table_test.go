@@ -43,6 +43,11 @@ func TestNext(t *testing.T) {
 			t.Errorf("state %d has the tag %d, want %d", at, got, want)
 		}
 	}
+	for at, want := range map[int]bool{Nowhere: false, 0: true, 1: false, 2: false} {
+		if got := table.GoesOn(at); got != want {
+			t.Errorf("from state %d one goes on: %v, want %v", at, got, want)
+		}
+	}
 }
 
 // Differ holds for tables that are not least, too.
