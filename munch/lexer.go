@@ -58,7 +58,7 @@ func (x *Lexer) walk(b string, last bool) ([]Token, Errno, int) {
 	text, next := append(x.behind, b...), len(x.behind)
 	start := x.came - next // where text begins
 	x.came += len(b)
-	vain := newVain(x.states)
+	inVain := newVain(x.states)
 	if x.stuck {
 		goto stuck
 	}
@@ -70,7 +70,7 @@ looking:
 		if x.states.Tag(x.at) != table.NoTag {
 			x.to, x.best = start+next, x.at
 		}
-		if !x.states.GoesOn(x.at) || vain.has(next, x.at) {
+		if !x.states.GoesOn(x.at) || inVain.has(next, x.at) {
 			goto telling
 		}
 	}
@@ -84,7 +84,7 @@ telling:
 		goto stuck
 	}
 	tokens = append(tokens, Token{Tag: x.states.Tag(x.best), From: x.from, To: x.to})
-	vain.add(x.best, text[:next], x.to-start)
+	inVain.add(x.best, text[:next], x.to-start)
 	x.from, x.at, next = x.to, 0, x.to-start
 	goto looking
 

@@ -74,15 +74,12 @@ func (p *plainLexer) close(t *testing.T) {
 
 func TestLexersAtAnyStrings(t *testing.T) {
 	r := rand.New(rand.NewSource(60))
-	any := make([]byte, 256)
-	for b := range any {
-		any[b] = byte(b)
-	}
+	any := allBytes()
 	for range 4000 {
 		list := madeGoodList(r)
 		switch r.Intn(4) {
 		case 0:
-			list = madeText(r, string(any), 20)
+			list = madeText(r, any, 20)
 		case 1:
 			list = madeText(r, "a-]^[\\{,19}(|)&!*\n.", 20)
 		case 2:
@@ -98,7 +95,7 @@ func TestLexersAtAnyStrings(t *testing.T) {
 			case r.Intn(2) == 0:
 				x.feed(t, madeText(r, "ab", 3))
 			default:
-				x.feed(t, madeText(r, string(any), 3))
+				x.feed(t, madeText(r, any, 3))
 			}
 		}
 	}
@@ -281,7 +278,19 @@ func TestLexersKeepLittle(t *testing.T) {
 		if after := heap(); after > before+piece/2 {
 			t.Errorf("by %q, %d bytes were kept of %d", c.list, after-before, piece*pieces)
 		}
+		runtime.KeepAlive(text)
+		runtime.KeepAlive(x)
+	}
+	// Here all must be kept, until the text is closed, or stuck.
+	for _, end := range []string{"", "x"} {
+		x := mustNew(t, "[ab]|ab*c")
+		before := heap()
+		x.Feed("a" + rep("b", 2*piece))
+		x.Feed(end)
 		x.Close()
+		if after := heap(); after > before+piece/2 {
+			t.Errorf("%d bytes were kept of a text that is closed behind %q", after-before, end)
+		}
 		runtime.KeepAlive(x)
 	}
 }

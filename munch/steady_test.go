@@ -75,18 +75,23 @@ func tryPlainTable(t *testing.T, table, w string) {
 	}
 }
 
+func allBytes() string {
+	out := make([]byte, 256)
+	for b := range out {
+		out[b] = byte(b)
+	}
+	return string(out)
+}
+
 func TestAnyStrings(t *testing.T) {
 	r := rand.New(rand.NewSource(1))
-	any := make([]byte, 256)
-	for b := range any {
-		any[b] = byte(b)
-	}
+	any := allBytes()
 	for range 20000 {
-		tryPlain(t, madeText(r, string(any), 100), madeText(r, string(any), 100))
+		tryPlain(t, madeText(r, any, 100), madeText(r, any, 100))
 		tryPlain(t, madeText(r, "a-]^[\\{,19}(|)&!*\n.", 100), madeText(r, "a\n", 10))
 		tryPlain(t, madeText(r, "|&()*\n", 20), madeText(r, "a\n", 10))
 		tryPlainTable(t, madeText(r, "-0>,;", 10), madeText(r, "a\n", 10))
-		tryPlainTable(t, madeText(r, "-,0000>0000;", 30), string(any))
+		tryPlainTable(t, madeText(r, "-,0000>0000;", 30), any)
 	}
 }
 

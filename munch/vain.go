@@ -15,11 +15,11 @@ func newVain(states table.Table) vain {
 	return vain{states: states, width: (len(states) + wordBits - 1) / wordBits}
 }
 
-// add marks the places behind from, to which one comes from a state by the text from there on.
+// add marks the way that goes over a text from a place on, and from a state there.
 func (v *vain) add(at int, text []byte, from int) {
 	for i := from; i < len(text); i++ {
 		at = v.states.Next(at, text[i])
-		if at == table.Nowhere || v.has(i+1, at) {
+		if at == table.Nowhere {
 			return
 		}
 		v.mark(i+1, at)
